@@ -156,10 +156,12 @@ func (b *bench) wantCommit(l ...api.Change) api.Errno {
 	after, want := b.plain.behind(l)
 	did := b.chip.Did()
 	got := b.Commit(l)
+	if got == api.ErrOff {
+		b.cuts++
+	}
 	b.wantCheap(did)
 	switch {
 	case got == api.ErrOff:
-		b.cuts++
 		b.wantMount()
 		if !b.plain.stands(b.FTL) {
 			b.plain = after
@@ -188,7 +190,7 @@ func (b *bench) wantCheap(did int) {
 	if n := b.chip.Did() - did; n > 3*b.g.Blocks*b.g.Pages {
 		b.t.Fatal(b.g, "call", b.calls, "took", n, "actions")
 	}
-	if n := b.spread(); n > 2*api.Level+b.g.Blocks+b.cuts+1 {
+	if n := b.spread(); n > 2*api.Level+b.g.Blocks+b.cuts {
 		b.t.Fatal(b.g, "call", b.calls, "erased", b.chip.Worn())
 	}
 }
